@@ -7,6 +7,7 @@ import (
 	"errata/book"
 	"errata/compare"
 	"errata/faces"
+	"errata/kindof"
 	"errata/kinds"
 )
 
@@ -190,7 +191,7 @@ func (m *machine) pop() subject {
 
 // chosen is where a switch goes on.
 func (m *machine) chosen(op api.Op) int {
-	kind := kindOf(m.x.err)
+	kind := kindof.Error(m.x.err)
 	held, _ := faces.Held(m.book, m.x.handle)
 	for _, clause := range op.Cases {
 		isIt := clause.Kind == kind // with neither a kind nor a face it asks for no error, whose kind is 0
